@@ -31,6 +31,11 @@ func (s bitSet) size() int {
 	return bits.OnesCount(uint(s))
 }
 
+// has reports whether the thing at a place, from 0 on, is in a set.
+func (s bitSet) has(at int) bool {
+	return s>>at&1 == 1
+}
+
 // fits reports whether an edge has its lesser end first, and both ends among so many nodes.
 func (e Edge) fits(nodes int) bool {
 	return 1 <= e.A && e.A < e.B && e.B <= nodes
