@@ -62,12 +62,22 @@ func NetOk(net Net) bool {
 // StateOk reports whether a state of a net (NetOk) is at least 0, and less than 2 taken as many times times itself as there are edges.
 func StateOk(net Net, state int) bool {
 	// The net comes first: only a valid one has few enough edges to shift by.
-	return NetOk(net) && 0 <= state && state < 1<<len(net.Edges)
+	return NetOk(net) && 0 <= state && state < stateCount(net)
+}
+
+// stateCount returns how many states a net (NetOk) has.
+func stateCount(net Net) int {
+	return 1 << len(net.Edges)
 }
 
 // nodeOk reports whether a net (NetOk) has a node.
 func nodeOk(net Net, node int) bool {
 	return NetOk(net) && 1 <= node && node <= net.Nodes
+}
+
+// pairOk reports whether a net (NetOk) has both of two different nodes.
+func pairOk(net Net, a int, b int) bool {
+	return nodeOk(net, a) && nodeOk(net, b) && a != b
 }
 
 // edgeAtOk reports whether a net (NetOk) has an edge at a place, from 0 on.
