@@ -145,3 +145,75 @@ func mustBe(t *testing.T, what string, net impl.Net, got, want int) {
 		t.Fatalf("%s of %v: %d, not %d", what, net, got, want)
 	}
 }
+
+// mustBeRow fails a test if a row is not the wanted one, nil and empty rows being the same.
+func mustBeRow(t *testing.T, what string, about any, got, want []int) {
+	t.Helper()
+	if !slices.Equal(got, want) {
+		t.Fatalf("%s of %v: %v, not %v", what, about, got, want)
+	}
+}
+
+// nodePairs returns each two different nodes of a net, both ways.
+func nodePairs(net impl.Net) [][2]int {
+	var list [][2]int
+	for _, edge := range allPairs(net.Nodes) {
+		list = append(list, [2]int{edge.A, edge.B}, [2]int{edge.B, edge.A})
+	}
+	return list
+}
+
+// copyOfRows returns rows with memory of their own.
+func copyOfRows(rows [][]int) [][]int {
+	var list [][]int
+	for _, row := range rows {
+		list = append(list, slices.Clone(row))
+	}
+	return list
+}
+
+// overwriteRow writes to all memory that a row has, spare capacity included.
+func overwriteRow(row []int) {
+	all := row[:cap(row)]
+	for i := range all {
+		all[i] = -77
+	}
+}
+
+// leavesNetsAsTheyAre fails a test if telling rows of a net writes to the net, or if a row shares memory with the net or with another row.
+func leavesNetsAsTheyAre(t *testing.T, tell func(net impl.Net) [][]int) {
+	t.Helper()
+	for _, net := range append(validNets(), invalidNets()...) {
+		lent, memory := lentNet(net)
+		before := slices.Clone(memory)
+		first, second := tell(lent), tell(lent)
+		want := copyOfRows(second)
+		for _, row := range first {
+			overwriteRow(row)
+		}
+		if !slices.Equal(memory, before) {
+			t.Fatal("written to", net)
+		}
+		for i, row := range second {
+			mustBeRow(t, "another result", []any{net, i}, row, want[i])
+		}
+		for i, row := range tell(lent) {
+			mustBeRow(t, "a later result", []any{net, i}, row, want[i])
+		}
+	}
+}
+
+// keepsNoState fails a test if rows told of nets, by their places, are others when they are told once more, the other way round.
+func keepsNoState(t *testing.T, tell func(net impl.Net, at int) [][]int) {
+	t.Helper()
+	nets := append(validNets(), invalidNets()...)
+	var first [][][]int
+	for at, net := range nets {
+		first = append(first, tell(net, at))
+	}
+	for at, net := range slices.Backward(nets) {
+		for i, row := range tell(net, at) {
+			mustBeRow(t, "told otherwise", []any{net, i}, row, first[at][i])
+		}
+	}
+}

@@ -9,23 +9,6 @@ import (
 	"loop.example/failingnets/impl"
 )
 
-// mustBeRow fails a test if a row is not the wanted one, nil and empty rows being the same.
-func mustBeRow(t *testing.T, what string, about any, got, want []int) {
-	t.Helper()
-	if !slices.Equal(got, want) {
-		t.Fatalf("%s of %v: %v, not %v", what, about, got, want)
-	}
-}
-
-// nodePairs returns each two different nodes of a net, both ways.
-func nodePairs(net impl.Net) [][2]int {
-	var list [][2]int
-	for _, edge := range allPairs(net.Nodes) {
-		list = append(list, [2]int{edge.A, edge.B}, [2]int{edge.B, edge.A})
-	}
-	return list
-}
-
 // rowsOf are the counts of a net: for each two nodes, by their numbers, of whole states, and of states without a ring.
 type rowsOf struct {
 	joining [impl.MaxNodes + 1][impl.MaxNodes + 1][]int
@@ -502,42 +485,8 @@ func tellRows(net impl.Net, a, b int) [][]int {
 	return [][]int{impl.JoiningCounts(net, a, b), impl.WholeCounts(net), impl.ForestCounts(net)}
 }
 
-// copyOfRows returns rows with memory of their own.
-func copyOfRows(rows [][]int) [][]int {
-	var list [][]int
-	for _, row := range rows {
-		list = append(list, slices.Clone(row))
-	}
-	return list
-}
-
-// overwriteRow writes to all memory that a row has, spare capacity included.
-func overwriteRow(row []int) {
-	all := row[:cap(row)]
-	for i := range all {
-		all[i] = -77
-	}
-}
-
 func TestRowsLeaveNetsAsTheyAreAndShareNoMemory(t *testing.T) {
-	for _, net := range append(validNets(), invalidNets()...) {
-		lent, memory := lentNet(net)
-		before := slices.Clone(memory)
-		first, second := tellRows(lent, 1, 2), tellRows(lent, 1, 2)
-		want := copyOfRows(second)
-		for _, row := range first {
-			overwriteRow(row)
-		}
-		if !slices.Equal(memory, before) {
-			t.Fatal("written to", net)
-		}
-		for i, row := range second {
-			mustBeRow(t, "another result", []any{net, i}, row, want[i])
-		}
-		for i, row := range tellRows(lent, 1, 2) {
-			mustBeRow(t, "a later result", []any{net, i}, row, want[i])
-		}
-	}
+	leavesNetsAsTheyAre(t, func(net impl.Net) [][]int { return tellRows(net, 1, 2) })
 }
 
 // lentRow returns a row that lies in longer memory, with marked numbers behind it, and that memory.
@@ -578,18 +527,8 @@ func TestARowWithItself(t *testing.T) {
 }
 
 func TestRowsKeepNoState(t *testing.T) {
-	nets := append(validNets(), invalidNets()...)
-	tell := func(at int) [][]int {
+	keepsNoState(t, func(net impl.Net, at int) [][]int {
 		n := at%25 - 2
-		return append(tellRows(nets[at], 2, 1), []int{impl.ChoicesOf(n, at%7-1)}, impl.BothOf(impl.WholeCounts(nets[at]), []int{n, at}))
-	}
-	var first [][][]int
-	for at := range nets {
-		first = append(first, tell(at))
-	}
-	for at := len(nets) - 1; at >= 0; at-- {
-		for i, row := range tell(at) {
-			mustBeRow(t, "told otherwise", nets[at], row, first[at][i])
-		}
-	}
+		return append(tellRows(net, 2, 1), []int{impl.ChoicesOf(n, at%7-1)}, impl.BothOf(impl.WholeCounts(net), []int{n, at}))
+	})
 }
