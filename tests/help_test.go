@@ -45,6 +45,17 @@ func allPairs(nodes int) []impl.Edge {
 	return list
 }
 
+// threesNet is the net in which each of the nodes 1 to 3 has an edge to each of the nodes 4 to 6.
+func threesNet() impl.Net {
+	net := impl.Net{Nodes: impl.MaxNodes}
+	for a := 1; a <= 3; a++ {
+		for b := 4; b <= 6; b++ {
+			net.Edges = append(net.Edges, impl.Edge{A: a, B: b})
+		}
+	}
+	return net
+}
+
 // withEdges appends all nets of so many nodes that have at most so many edges, equal ones among them.
 func withEdges(list []impl.Net, nodes, most int) []impl.Net {
 	pairs := allPairs(nodes)

@@ -222,13 +222,8 @@ func TestRowExamples(t *testing.T) {
 }
 
 func TestRowsOfTheGreatestNets(t *testing.T) {
-	// Each of three nodes with an edge to each of three others has 81 trees, and 328 states without a ring.
-	threes := impl.Net{Nodes: impl.MaxNodes}
-	for a := 1; a <= 3; a++ {
-		for b := 4; b <= 6; b++ {
-			threes.Edges = append(threes.Edges, impl.Edge{A: a, B: b})
-		}
-	}
+	// There are 81 trees, and 328 states without a ring.
+	threes := threesNet()
 	whole, forest := impl.WholeCounts(threes), impl.ForestCounts(threes)
 	mustBeRow(t, "WholeCounts", threes, whole, []int{0, 0, 0, 0, 0, 81, 78, 36, 9, 1})
 	mustBeRow(t, "ForestCounts", threes, forest, []int{1, 9, 36, 84, 117, 81, 0, 0, 0, 0})

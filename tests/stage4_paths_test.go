@@ -333,14 +333,8 @@ func TestPathsOfManyEdgesOneAfterTheOther(t *testing.T) {
 }
 
 func TestPathsAndCutsOfTheGreatestNets(t *testing.T) {
-	// Each of the nodes 1 to 3 has an edge to each of the nodes 4 to 6: 1 path of one edge, 4 of three, and 4 of five join two of both.
-	var threes impl.Net
-	threes.Nodes = impl.MaxNodes
-	for a := 1; a <= 3; a++ {
-		for b := 4; b <= 6; b++ {
-			threes.Edges = append(threes.Edges, impl.Edge{A: a, B: b})
-		}
-	}
+	// Between two of both threes 1 path has one edge, 4 have three, and 4 have five.
+	threes := threesNet()
 	tieCase{threes, 1, 4, []int{1, 26, 44, 194, 244, 324, 370, 412, 426}, otherCuts(threes, 1, 4), 1, 3, 3}.check(t)
 	tieCase{threes, 1, 2, otherPaths(threes, 1, 2), otherCuts(threes, 1, 2), 2, 3, 3}.check(t)
 	mustBe(t, "paths between two of a side", threes, len(impl.PathsOf(threes, 1, 2)), 9)
