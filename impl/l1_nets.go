@@ -36,6 +36,11 @@ func (s bitSet) has(at int) bool {
 	return s>>at&1 == 1
 }
 
+// lowest returns the place of the first thing of a set that is not empty.
+func (s bitSet) lowest() int {
+	return bits.TrailingZeros(uint(s))
+}
+
 // fits reports whether an edge has its lesser end first, and both ends among so many nodes.
 func (e Edge) fits(nodes int) bool {
 	return 1 <= e.A && e.A < e.B && e.B <= nodes

@@ -165,6 +165,14 @@ func mustBeRow(t *testing.T, what string, about any, got, want []int) {
 	}
 }
 
+// mustBeNumber fails a test if a number is not the wanted one.
+func mustBeNumber(t *testing.T, what string, about any, got, want int) {
+	t.Helper()
+	if got != want {
+		t.Fatalf("%s of %v: %d, not %d", what, about, got, want)
+	}
+}
+
 // nodePairs returns each two different nodes of a net, both ways.
 func nodePairs(net impl.Net) [][2]int {
 	var list [][2]int
